@@ -366,6 +366,62 @@ func TestTable(t *testing.T) {
 	}
 }
 
+// wantBothWays wants that what is reckoned of s and what a table tells of it,
+// one that was made ahead and one that wasn't, are its sum.
+func wantBothWays(t *testing.T, made *eights, s string) {
+	t.Helper()
+	want := crc32.ChecksumIEEE([]byte(s))
+	var own eights
+	if a, b, c := reckoned(s), made.sum(s), own.sum(s); a != want || b != want || c != want {
+		t.Fatalf("%d bytes: reckoned %x, told %x and %x, wanted %x", len(s), a, b, c, want)
+	}
+}
+
+// P15.1: both ways to a sum come to the same, for texts of none, one, many and
+// very many bytes.
+func TestBothWays(t *testing.T) {
+	var made eights
+	c := chance(9)
+	wantBothWays(t, &made, "")
+	for b := range 256 {
+		wantBothWays(t, &made, string([]byte{byte(b)}))
+	}
+	for n := range 400 {
+		wantBothWays(t, &made, c.text(n))
+		wantBothWays(t, &made, c.plain(n))
+	}
+	for _, n := range []int{800, 813, 4096, 65535, 65536, 1 << 20, 1<<23 + 1} {
+		wantBothWays(t, &made, c.text(n))
+		wantBothWays(t, &made, strings.Repeat("\x00", n))
+		wantBothWays(t, &made, strings.Repeat("\xff", n))
+	}
+}
+
+// R5: what stands in the table decides no answer.
+func TestTableDecidesNothing(t *testing.T) {
+	defer func() { table = eights{} }()
+	for b := range 256 {
+		for _, bad := range []uint32{1, ones} {
+			table = eights{}
+			table.wanted()[b] ^= bad
+			for at, call := range calls() {
+				if !call() {
+					t.Fatalf("%d is %x in the table: call %d", b, table.made[b], at)
+				}
+			}
+		}
+	}
+}
+
+// The table is made by Of, beside the bits.
+func TestOfWantsTheTable(t *testing.T) {
+	defer func() { table = eights{} }()
+	table = eights{}
+	if Of("a"); table.made[1] == 0 || table.made != *new(eights).wanted() {
+		t.Error("Of made no table")
+	}
+}
+
 // shared tells whether two texts have a byte in common in memory.
 func shared(s, u string) bool {
 	if s == "" || u == "" {
